@@ -4,6 +4,7 @@ import (
 	"voussoir/api"
 	"voussoir/lexi"
 	"voussoir/terms"
+	"voussoir/tokens"
 )
 
 // deepest is the nesting depth at which nothing more can be opened.
@@ -11,22 +12,7 @@ const deepest = 4 * api.MaxDeep
 
 // Parse returns the valid term for which s stands, and len(s), or an error and its offset.
 func Parse(s string) (t api.Term, at int, e api.Errno) {
-	l, at, e := lexi.All(s)
-	if e != api.OK {
-		return api.Term{}, at, e
-	}
-	t, next, e := Take(l, 0)
-	if e == api.OK && next < len(l) {
-		e = api.ErrSyntax
-	}
-	at = len(s)
-	if next < len(l) {
-		at = l[next].At
-	}
-	if e != api.OK {
-		return api.Term{}, at, e
-	}
-	return t, at, api.OK
+	return tokens.Whole(s, Take)
 }
 
 // Take returns the valid term that begins at token i and the index of the token after it, or an error and the index of its token.
@@ -34,12 +20,12 @@ func Take(l []lexi.Token, i int) (t api.Term, next int, e api.Errno) {
 	if i < 0 || i > len(l) {
 		return api.Term{}, 0, api.ErrRange
 	}
-	p := parser{list: list{tokens: l, at: i}}
+	p := parser{List: tokens.List{Tokens: l, At: i}}
 	defer func() {
 		switch fault := recover().(type) {
 		case nil:
 		case api.Errno:
-			t, next, e = api.Term{}, p.at, fault
+			t, next, e = api.Term{}, p.At, fault
 		default:
 			panic(fault)
 		}
@@ -48,69 +34,40 @@ func Take(l []lexi.Token, i int) (t api.Term, next int, e api.Errno) {
 	if e := terms.Check(t); e != api.OK {
 		return api.Term{}, i, e
 	}
-	return t, p.at, api.OK
+	return t, p.At, api.OK
 }
 
-// list is a list of tokens and the index up to which it has been read.
-type list struct {
-	tokens []lexi.Token
-	at     int
-}
-
-// peek returns the next token; at the end of the list it returns one that no rule has.
-func (l *list) peek() lexi.Token {
-	if l.at == len(l.tokens) {
-		return lexi.Token{Kind: lexi.End}
-	}
-	return l.tokens[l.at]
-}
-
-// is reports whether the next token is that one.
-func (l *list) is(kind int, text string) bool {
-	t := l.peek()
-	return t.Kind == kind && t.Text == text
-}
-
-// accept reads the next token if it is that one, and reports whether it is.
-func (l *list) accept(kind int, text string) bool {
-	if !l.is(kind, text) {
-		return false
-	}
-	l.at++
-	return true
+// parser reads terms from a list. It panics with the error if the next token is not allowed.
+type parser struct {
+	tokens.List
+	depth int // the nesting depth of the next token
 }
 
 // need reads the next token, which must be that one.
-func (l *list) need(kind int, text string) {
-	if !l.accept(kind, text) {
+func (p *parser) need(kind int, text string) {
+	if !p.Accept(kind, text) {
 		panic(api.ErrSyntax)
 	}
 }
 
 // needKind reads the next token, which must be of that kind, and returns it.
-func (l *list) needKind(kind int) lexi.Token {
-	t := l.peek()
+func (p *parser) needKind(kind int) lexi.Token {
+	t := p.Peek()
 	if t.Kind != kind {
 		panic(api.ErrSyntax)
 	}
-	l.at++
+	p.At++
 	return t
 }
 
 // operator reads the next token if it is one of the operators, and returns that operator or 0.
-func (l *list) operator(ops ...int) int {
+func (p *parser) operator(ops ...int) int {
 	for _, op := range ops {
-		if l.accept(symbol(op)) {
+		if p.Accept(symbol(op)) {
 			return op
 		}
 	}
 	return 0
-}
-
-// parser reads terms from a list. It panics with the error if the next token is not allowed.
-type parser struct {
-	list
-	depth int // the nesting depth of the next token
 }
 
 // open reads the next token, which encloses what is read until shut is called.
@@ -118,7 +75,7 @@ func (p *parser) open() {
 	if p.depth == deepest {
 		panic(api.ErrDeep)
 	}
-	p.at++
+	p.At++
 	p.depth++
 }
 
@@ -132,7 +89,7 @@ func node(op int, kids ...api.Term) api.Term {
 
 func (p *parser) term() api.Term {
 	t := p.imp()
-	if p.accept(symbol(api.TIff)) {
+	if p.Accept(symbol(api.TIff)) {
 		return node(api.TIff, t, p.imp())
 	}
 	return t
@@ -140,7 +97,7 @@ func (p *parser) term() api.Term {
 
 func (p *parser) imp() api.Term {
 	t := p.or()
-	if !p.is(symbol(api.TImp)) {
+	if !p.Is(symbol(api.TImp)) {
 		return t
 	}
 	p.open()
@@ -160,7 +117,7 @@ func (p *parser) and() api.Term {
 // row reads operands with the operator between them.
 func (p *parser) row(op int, operand func() api.Term) api.Term {
 	kids := []api.Term{operand()}
-	for p.accept(symbol(op)) {
+	for p.Accept(symbol(op)) {
 		kids = append(kids, operand())
 	}
 	if len(kids) == 1 {
@@ -170,7 +127,7 @@ func (p *parser) row(op int, operand func() api.Term) api.Term {
 }
 
 func (p *parser) not() api.Term {
-	if !p.is(symbol(api.TNot)) {
+	if !p.Is(symbol(api.TNot)) {
 		return p.cmp()
 	}
 	p.open()
@@ -211,19 +168,19 @@ func (p *parser) prod() api.Term {
 
 func (p *parser) unit() api.Term {
 	switch {
-	case p.peek().Kind == lexi.Num:
+	case p.Peek().Kind == lexi.Num:
 		return api.Term{Op: api.TNum, N: p.needKind(lexi.Num).N}
-	case p.accept(lexi.Sign, "-"):
+	case p.Accept(lexi.Sign, "-"):
 		return api.Term{Op: api.TNum, N: -p.needKind(lexi.Num).N}
-	case p.accept(lexi.Word, "true"):
+	case p.Accept(lexi.Word, "true"):
 		return api.Term{Op: api.TBool, N: 1}
-	case p.accept(lexi.Word, "false"):
+	case p.Accept(lexi.Word, "false"):
 		return api.Term{Op: api.TBool}
-	case p.accept(lexi.Word, "next"):
+	case p.Accept(lexi.Word, "next"):
 		return p.next()
-	case p.is(lexi.Sign, "("):
+	case p.Is(lexi.Sign, "("):
 		return p.group()
-	case p.is(lexi.Word, "if"):
+	case p.Is(lexi.Word, "if"):
 		return p.choice()
 	}
 	return api.Term{Op: api.TName, Name: p.needKind(lexi.Name).Text}
