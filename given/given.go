@@ -4,6 +4,7 @@ package given
 import (
 	"voussoir/api"
 	"voussoir/dd"
+	"voussoir/vset"
 )
 
 // Flaw returns what is wrong about the manager, or else about the first of the handles that is none, or else about the first of the variables that is none.
@@ -20,6 +21,21 @@ func Flaw(m *dd.Man, handles, vars []int) api.Errno {
 		if v < 0 || v >= m.Vars() {
 			return api.ErrVar
 		}
+	}
+	return api.OK
+}
+
+// Literals returns what Flaw returns for the variables of l, or else what is wrong about them together: that one occurs twice.
+func Literals(m *dd.Man, handles []int, l []api.Lit) api.Errno {
+	vars := make([]int, 0, len(l))
+	for _, lit := range l {
+		vars = append(vars, lit.Var)
+	}
+	if e := Flaw(m, handles, vars); e != api.OK {
+		return e
+	}
+	if len(vset.Of(vars...)) < len(vars) {
+		return api.ErrTwice
 	}
 	return api.OK
 }

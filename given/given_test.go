@@ -45,3 +45,31 @@ func TestFlaw(t *testing.T) {
 		t.Error(got)
 	}
 }
+
+func TestLiterals(t *testing.T) {
+	m, e := dd.New(3, 10)
+	if e != api.OK {
+		t.Fatal(e)
+	}
+	no := func(v int) api.Lit { return api.Lit{Var: v} }
+	yes := func(v int) api.Lit { return api.Lit{Var: v, Yes: true} }
+	for _, x := range []struct {
+		m       *dd.Man
+		handles []int
+		l       []api.Lit
+		want    api.Errno
+	}{
+		{nil, []int{9}, []api.Lit{no(9), no(9)}, api.ErrNone},
+		{m, nil, nil, api.OK},
+		{m, []int{1, 0}, []api.Lit{yes(2), no(0), yes(1)}, api.OK},
+		{m, []int{1, 2}, []api.Lit{no(3), no(3)}, api.ErrHandle},
+		{m, []int{1}, []api.Lit{no(1), yes(1), no(3)}, api.ErrVar},
+		{m, []int{1}, []api.Lit{no(-1)}, api.ErrVar},
+		{m, []int{1}, []api.Lit{no(1), yes(0), yes(1)}, api.ErrTwice},
+		{m, nil, []api.Lit{yes(2), yes(2)}, api.ErrTwice},
+	} {
+		if got := given.Literals(x.m, x.handles, x.l); got != x.want {
+			t.Errorf("%v, %v: %d; want %d", x.handles, x.l, got, x.want)
+		}
+	}
+}

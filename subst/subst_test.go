@@ -24,14 +24,6 @@ func put(w *trial.World, values uint64, images map[int]uint64) (r uint64) {
 	return r
 }
 
-// variable returns the table of a variable.
-func variable(w *trial.World, v int) (values uint64) {
-	for i := range 1 << w.M.Vars() {
-		values |= uint64(i>>v&1) << i
-	}
-	return values
-}
-
 func pair(v, to int) api.Pair { return api.Pair{Var: v, To: to} }
 
 func TestTheExample(t *testing.T) {
@@ -56,9 +48,9 @@ func TestRandomFunctions(t *testing.T) {
 				images[v] = w.Some()
 				to = append(to, pair(v, w.Handle(images[v])))
 				other := r.Intn(w.M.Vars())
-				others[v] = variable(w, other)
+				others[v] = w.Variable(other)
 				names = append(names, pair(v, other))
-				flips[v] = ^variable(w, v)
+				flips[v] = ^w.Variable(v)
 				vars = append(vars, v)
 				vars = append(vars, vars[:r.Intn(2)]...)
 			}

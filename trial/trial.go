@@ -70,6 +70,19 @@ func Cofactor(values uint64, v, value int) (cut uint64) {
 	return cut
 }
 
+// Depends reports whether a function depends on variable v.
+func Depends(values uint64, v int) bool {
+	return Cofactor(values, v, 0) != Cofactor(values, v, 1)
+}
+
+// Variable returns the table of variable v.
+func (w *World) Variable(v int) (values uint64) {
+	for i := range 1 << w.M.Vars() {
+		values |= uint64(i>>v&1) << i
+	}
+	return values
+}
+
 // Handle returns a new handle of the function with that table.
 func (w *World) Handle(values uint64) int {
 	w.T.Helper()

@@ -51,7 +51,12 @@ func TestTables(t *testing.T) {
 				t.Fatalf("%x; want %x", got, values)
 			}
 			for v := range vars {
+				sensitive := false
 				for i := range 1 << vars {
+					if w.Variable(v)>>i&1 == 1 != w.Assignment(i)[v] {
+						t.Fatal(v, w.Variable(v))
+					}
+					sensitive = sensitive || values>>i&1 != values>>(i^1<<v)&1
 					for value, cut := range []uint64{trial.Cofactor(values, v, 0), trial.Cofactor(values, v, 1)} {
 						l := w.Assignment(i)
 						l[v] = value == 1
@@ -59,6 +64,9 @@ func TestTables(t *testing.T) {
 							t.Fatal(values, v, value, cut)
 						}
 					}
+				}
+				if trial.Depends(values, v) != sensitive {
+					t.Fatal(values, v)
 				}
 			}
 			w.DropAll()
