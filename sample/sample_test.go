@@ -1,0 +1,72 @@
+package sample_test
+
+import (
+	"math/rand"
+	"testing"
+
+	"voussoir/api"
+	"voussoir/sample"
+	"voussoir/terms"
+	"voussoir/typing"
+)
+
+// What is made is valid, and nothing that is to occur is missing.
+func TestWhatIsMade(t *testing.T) {
+	r := rand.New(rand.NewSource(1))
+	ops, kinds := map[int]int{}, map[string]int{}
+	for range 3000 {
+		m := sample.Module(r)
+		if p, e := typing.Check(m); e != api.OK {
+			t.Fatal(m, p, e)
+		}
+		if n, ok := typing.States(m); !ok || n > 64 {
+			t.Fatal(m.Vars, n)
+		}
+		for kind, l := range map[string][]api.Term{"init": m.Init, "invar": m.Invar, "trans": m.Trans, "fair": m.Fair} {
+			kinds[kind] += len(l)
+		}
+		kinds["vars"] += len(m.Vars)
+		kinds["defs"] += len(m.Defs)
+		kinds["next"] += len(m.Next)
+		truth := r.Intn(2) == 0
+		term := sample.Term(r, m.Vars, m.Vars, truth, 5)
+		if y, e := terms.Type(m.Vars, term, true); e != api.OK || y.Bool != truth || terms.Deep(term) > 5 {
+			t.Fatal(term, y, e)
+		}
+		count(term, ops)
+	}
+	for op := api.TNum; op <= api.TIf; op++ {
+		if ops[op] < 100 {
+			t.Errorf("operator %d occurs %d times", op, ops[op])
+		}
+	}
+	for kind, n := range kinds {
+		if n < 500 {
+			t.Errorf("there are %d of %s", n, kind)
+		}
+	}
+}
+
+// count counts the operators of t.
+func count(t api.Term, ops map[int]int) {
+	ops[t.Op]++
+	for _, kid := range t.Kids {
+		count(kid, ops)
+	}
+}
+
+func TestVars(t *testing.T) {
+	r := rand.New(rand.NewSource(2))
+	for range 3000 {
+		most, span, bits := r.Intn(6), 1+r.Intn(20), r.Intn(12)
+		vars := sample.Vars(r, most, span, bits)
+		if _, e := typing.Vars(vars); e != api.OK || len(vars) > most || typing.Bits(api.Module{Vars: vars}) > bits {
+			t.Fatal(vars, e)
+		}
+		for _, v := range vars {
+			if !v.Bool && typing.Span(v) > span {
+				t.Fatal(v)
+			}
+		}
+	}
+}
