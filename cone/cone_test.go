@@ -8,17 +8,8 @@ import (
 	"voussoir/api"
 	"voussoir/cone"
 	"voussoir/modtext"
+	"voussoir/sample"
 )
-
-// module returns the module for which s stands.
-func module(t *testing.T, s string) api.Module {
-	t.Helper()
-	m, at, e := modtext.Parse(s)
-	if e != api.OK {
-		t.Fatalf("%q: %d at %d", s, e, at)
-	}
-	return m
-}
 
 // show returns the text of a module.
 func show(t *testing.T, m api.Module) string {
@@ -37,7 +28,7 @@ func is(t *testing.T, about, s string) func(n api.Module, e api.Errno) {
 		if e != api.OK {
 			t.Fatalf("%s: %d", about, e)
 		}
-		if got, want := show(t, n), show(t, module(t, s)); got != want {
+		if got, want := show(t, n), show(t, sample.Model(t, s)); got != want {
 			t.Errorf("%s: %q; want %q", about, got, want)
 		}
 	}
@@ -54,7 +45,7 @@ func refused(t *testing.T, about string, want api.Errno) func(n api.Module, e ap
 }
 
 func TestTheExample(t *testing.T) {
-	m := module(t, "var a : bool; var b : bool; var c : bool; next a := b; fair c;")
+	m := sample.Model(t, "var a : bool; var b : bool; var c : bool; next a := b; fair c;")
 	if l := cone.Names(m, "a"); !slices.Equal(l, []string{"a", "b"}) {
 		t.Error(l)
 	}
@@ -94,7 +85,7 @@ func TestRelations(t *testing.T) {
 		{"init if a then true else b;", []string{"a"}, []string{"a", "b"}, "var b : bool; var a : bool; init if a then true else b;"},
 		{"", []string{"b", "a", "b"}, []string{"a", "b"}, "var b : bool; var a : bool;"},
 	} {
-		m := module(t, vars+x.s)
+		m := sample.Model(t, vars+x.s)
 		if l := cone.Names(m, x.l...); !slices.Equal(l, x.want) {
 			t.Errorf("%s %v: %v; want %v", x.s, x.l, l, x.want)
 		}
@@ -105,7 +96,7 @@ func TestRelations(t *testing.T) {
 func TestSpec(t *testing.T) {
 	s := "var d : bool; var c : 0..3; var b : bool; var a : bool; def k := a & l; def l := true; init c < 2; init b | k; fair l;" +
 		"spec one : AG ([k] -> EF [d]); spec two : [c = 1]; spec three : E[[l] U [1 < 2]];"
-	m := module(t, s)
+	m := sample.Model(t, s)
 	is(t, "one", "var d : bool; var b : bool; var a : bool; init b | a & true; fair true; spec one : AG ([a & true] -> EF [d]);")(cone.Spec(m, 0))
 	is(t, "two", "var c : 0..3; init c < 2; fair true; spec two : [c = 1];")(cone.Spec(m, 1))
 	is(t, "three", "fair true; spec three : E[[true] U [1 < 2]];")(cone.Spec(m, 2))
@@ -116,9 +107,9 @@ func TestSpec(t *testing.T) {
 }
 
 func TestInvalidModules(t *testing.T) {
-	valid := module(t, "var a : bool; init a; spec s : [a];")
+	valid := sample.Model(t, "var a : bool; init a; spec s : [a];")
 	for _, s := range []string{"var a : bool; init b; spec s : [a];", "var a : bool; var a : bool; spec s : [a];", "def k := l; def l := k; var a : bool; spec s : [a];", "var a : bool; spec s : [a]; spec t : [x];", "var a : bool; init 1; spec s : [a];", "var a : bool; def k := 1 + true; spec s : [a];"} {
-		m := module(t, s)
+		m := sample.Model(t, s)
 		if l := cone.Names(m, "a"); len(l) != 0 {
 			t.Errorf("%s: %v", s, l)
 		}
@@ -132,7 +123,7 @@ func TestInvalidModules(t *testing.T) {
 }
 
 func TestRight(t *testing.T) {
-	m := module(t, "var a : bool; var b : 0..3; var c : bool; def k := b < 2; init a -> k; init true; invar c; next b := b; trans next(c) | c; trans true; fair k; fair c; spec s : [a];")
+	m := sample.Model(t, "var a : bool; var b : 0..3; var c : bool; def k := b < 2; init a -> k; init true; invar c; next b := b; trans next(c) | c; trans true; fair k; fair c; spec s : [a];")
 	for _, s := range []string{
 		"init true; trans true;",
 		"init true; trans true; spec x : AG [true];",
@@ -141,7 +132,7 @@ func TestRight(t *testing.T) {
 		"var a : bool; var b : 0..3; init a -> b < 2; init true; next b := b; trans true; fair b < 2; spec t : [a]; spec u : EF [b = 1];",
 		"var a : bool; var b : 0..3; var c : bool; init a -> b < 2; init true; invar c; next b := b; trans next(c) | c; trans true; fair b < 2; fair c;",
 	} {
-		if !cone.Right(m, module(t, s)) {
+		if !cone.Right(m, sample.Model(t, s)) {
 			t.Errorf("not right: %s", s)
 		}
 	}
@@ -167,7 +158,7 @@ func TestRight(t *testing.T) {
 		"var a : bool; var b : 0..3; def k := b < 2; init a -> k; init true; next b := b; trans true; fair k;",
 		"var a : bool; var b : 0..3; init a -> b < 2; init true; next b := b; trans true; fair b < 2; spec s : [c];",
 	} {
-		if cone.Right(m, module(t, s)) {
+		if cone.Right(m, sample.Model(t, s)) {
 			t.Errorf("right: %s", s)
 		}
 	}
@@ -175,7 +166,7 @@ func TestRight(t *testing.T) {
 		t.Error("right: with a definition")
 	}
 	vars := "var a : bool; var b : bool; "
-	if cone.Right(module(t, vars+"next a := b;"), module(t, vars+"next b := b;")) {
+	if cone.Right(sample.Model(t, vars+"next a := b;"), sample.Model(t, vars+"next b := b;")) {
 		t.Error("right: with the next of another variable")
 	}
 }
@@ -194,7 +185,7 @@ func TestNoModule(t *testing.T) {
 // What is returned shares no memory with the module.
 func TestMemory(t *testing.T) {
 	s := "var a : bool; var b : bool; def k := a & b; init k -> !a; invar a | !a; next a := !b; trans !a; fair !k; spec s : AG [!k];"
-	m := module(t, s)
+	m := sample.Model(t, s)
 	before := show(t, m)
 	n, e := cone.Spec(m, 0)
 	if e != api.OK {

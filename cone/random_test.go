@@ -10,6 +10,7 @@ import (
 	"voussoir/api"
 	"voussoir/cone"
 	"voussoir/defs"
+	"voussoir/sample"
 	"voussoir/terms"
 	"voussoir/typing"
 )
@@ -163,7 +164,7 @@ func TestRandomModules(t *testing.T) {
 	small := 0
 	for range 1500 {
 		s := text(r)
-		m := module(t, s)
+		m := sample.Model(t, s)
 		if p, e := typing.Check(m); e != api.OK {
 			t.Fatal(s, p, e)
 		}

@@ -4,6 +4,7 @@ import (
 	"voussoir/api"
 	"voussoir/dd"
 	"voussoir/edge"
+	"voussoir/given"
 )
 
 // implied are the variables that are false wherever a function is true, and those that are true there, a bit each.
@@ -11,12 +12,8 @@ type implied struct{ no, yes uint64 }
 
 // Essential returns the literals that f implies.
 func Essential(m *dd.Man, f int) (l []api.Lit, e api.Errno) {
-	never, e := m.Same(f, m.Const(false))
-	switch {
-	case e != api.OK:
+	if e := given.Empty(m, f); e != api.OK {
 		return nil, e
-	case never:
-		return nil, api.ErrEmpty
 	}
 	e = m.Look(func(x *dd.Ctx) { l = essential(x, x.Edge(f)).literals() })
 	return l, e

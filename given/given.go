@@ -31,6 +31,11 @@ func Literals(m *dd.Man, handles []int, l []api.Lit) api.Errno {
 	for _, lit := range l {
 		vars = append(vars, lit.Var)
 	}
+	return Distinct(m, handles, vars)
+}
+
+// Distinct returns what Flaw returns, or else what is wrong about the variables together: that one occurs twice.
+func Distinct(m *dd.Man, handles, vars []int) api.Errno {
 	if e := Flaw(m, handles, vars); e != api.OK {
 		return e
 	}
@@ -38,4 +43,13 @@ func Literals(m *dd.Man, handles []int, l []api.Lit) api.Errno {
 		return api.ErrTwice
 	}
 	return api.OK
+}
+
+// Empty returns ErrEmpty if f is constantly false, or what Flaw returns.
+func Empty(m *dd.Man, f int) api.Errno {
+	never, e := m.Same(f, m.Const(false))
+	if never {
+		return api.ErrEmpty
+	}
+	return e
 }

@@ -2,6 +2,7 @@ package given_test
 
 import (
 	"math"
+	"slices"
 	"testing"
 
 	"voussoir/api"
@@ -71,5 +72,52 @@ func TestLiterals(t *testing.T) {
 		if got := given.Literals(x.m, x.handles, x.l); got != x.want {
 			t.Errorf("%v, %v: %d; want %d", x.handles, x.l, got, x.want)
 		}
+	}
+}
+
+func TestDistinct(t *testing.T) {
+	m, e := dd.New(3, 10)
+	if e != api.OK {
+		t.Fatal(e)
+	}
+	for _, x := range []struct {
+		m             *dd.Man
+		handles, vars []int
+		want          api.Errno
+	}{
+		{nil, []int{9}, []int{9, 9}, api.ErrNone},
+		{m, nil, nil, api.OK},
+		{m, []int{1, 1}, []int{2, 0, 1}, api.OK},
+		{m, []int{1, 2}, []int{3, 3}, api.ErrHandle},
+		{m, []int{1}, []int{1, 1, 3}, api.ErrVar},
+		{m, []int{1}, []int{1, 0, 1}, api.ErrTwice},
+	} {
+		before := slices.Clone(x.vars)
+		if got := given.Distinct(x.m, x.handles, x.vars); got != x.want || !slices.Equal(x.vars, before) {
+			t.Errorf("%v, %v: %d; want %d", x.handles, x.vars, got, x.want)
+		}
+	}
+}
+
+func TestEmpty(t *testing.T) {
+	m, e := dd.New(3, 10)
+	if e != api.OK {
+		t.Fatal(e)
+	}
+	h, e := m.Var(0)
+	if e != api.OK {
+		t.Fatal(e)
+	}
+	never, e := m.Ite(h, 0, 0)
+	if e != api.OK {
+		t.Fatal(e)
+	}
+	for f, want := range map[int]api.Errno{0: api.ErrEmpty, never: api.ErrEmpty, 1: api.OK, h: api.OK, -1: api.ErrHandle, never + 1: api.ErrHandle} {
+		if got := given.Empty(m, f); got != want {
+			t.Errorf("%d: %d; want %d", f, got, want)
+		}
+	}
+	if got := given.Empty(nil, 0); got != api.ErrNone {
+		t.Error(got)
 	}
 }

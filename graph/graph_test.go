@@ -9,23 +9,13 @@ import (
 
 	"voussoir/api"
 	"voussoir/graph"
-	"voussoir/modtext"
+	"voussoir/sample"
 )
-
-// module returns the model of a text.
-func module(t *testing.T, s string) api.Module {
-	t.Helper()
-	m, at, e := modtext.Parse(s)
-	if e != api.OK {
-		t.Fatalf("%s: %d at %d", s, e, at)
-	}
-	return m
-}
 
 // of returns the state graph of a text.
 func of(t *testing.T, s string) graph.Graph {
 	t.Helper()
-	g, e := graph.Of(module(t, s))
+	g, e := graph.Of(sample.Model(t, s))
 	if e != api.OK {
 		t.Fatalf("%s: %d", s, e)
 	}
@@ -110,7 +100,7 @@ func TestWrongModels(t *testing.T) {
 		variables(17, 61, 4) + "invar v2 = 1;": api.ErrMany,
 		variables(17, 61, 4) + "invar v2;":     api.ErrType,
 	} {
-		g, e := graph.Of(module(t, s))
+		g, e := graph.Of(sample.Model(t, s))
 		if e != want || g.States != nil || g.Next != nil || g.Init != nil || g.Fair != nil {
 			t.Errorf("%s: %d; want %d", s, e, want)
 		}
@@ -242,7 +232,7 @@ func TestParts(t *testing.T) {
 // What a call answers is its own memory.
 func TestMemory(t *testing.T) {
 	const s = "var n : 0 .. 5; invar n != 3; trans next(n) != n; fair n = 1; fair n < 3; init n < 2;"
-	mod := module(t, s)
+	mod := sample.Model(t, s)
 	g, _ := graph.Of(mod)
 	want := of(t, s)
 	check := func(about string) {

@@ -51,50 +51,11 @@ func TestTheExample(t *testing.T) {
 	ordered(w, "Move", []int{0, 1, 2, 3}, api.ErrRange)(reorder.Move(w.M, 0, 4))
 }
 
-// size returns the number of nodes of functions with these tables together in that order: as many as there are functions, of which a function and its negation count once, among those obtained by fixing the first variables.
-func size(vars []int, tables ...uint64) (n int) {
-	for _, v := range vars {
-		met := map[uint64]bool{}
-		var next []uint64
-		for _, values := range tables {
-			if trial.Depends(values, v) {
-				met[min(values, ^values)] = true
-			}
-			next = append(next, trial.Cofactor(values, v, 0), trial.Cofactor(values, v, 1))
-		}
-		slices.Sort(next)
-		tables = slices.Compact(next)
-		n += len(met)
-	}
-	return n
-}
-
-// spread returns a table for six variables that has the values of one for fewer.
-func spread(w *trial.World, values uint64) uint64 {
-	for v := w.M.Vars(); v < 6; v++ {
-		values |= values << (1 << v)
-	}
-	return values
-}
-
-// arrangements returns all arrangements of l.
-func arrangements(l []int) (all [][]int) {
-	if len(l) == 0 {
-		return [][]int{nil}
-	}
-	for i, v := range l {
-		for _, rest := range arrangements(slices.Delete(slices.Clone(l), i, i+1)) {
-			all = append(all, append([]int{v}, rest...))
-		}
-	}
-	return all
-}
-
 // best returns the order that Window is to leave, and the size in it.
 func best(order []int, level, wide int, tables ...uint64) (least []int, n int) {
-	for _, row := range arrangements(order[level : level+wide]) {
+	for _, row := range trial.Arrangements(order[level : level+wide]) {
 		tried := slices.Concat(order[:level], row, order[level+wide:])
-		k := size(tried, tables...)
+		k := trial.Size(tried, tables...)
 		if least == nil || k < n || k == n && slices.Compare(tried, least) < 0 {
 			least, n = tried, k
 		}
@@ -142,7 +103,7 @@ func TestRandomWindows(t *testing.T) {
 			w.Disturb()
 			wide := 1 + r.Intn(min(vars, 4))
 			level := r.Intn(vars - wide + 1)
-			l, tables := []int{f, g, 1, f}, []uint64{spread(w, a), spread(w, b)}
+			l, tables := []int{f, g, 1, f}, w.Spread(a, b)
 			if r.Intn(3) == 0 {
 				l, tables = l[:1], tables[:1]
 			}
@@ -237,22 +198,15 @@ func TestLittleRoom(t *testing.T) {
 	r := rand.New(rand.NewSource(24))
 	failed, done := 0, 0
 	for range 2000 {
-		wide := trial.New(t, r, 5, 5000)
-		a, b := wide.Some(), wide.Some()
-		wide.Handle(a)
-		wide.Handle(b)
-		wide.M.Collect()
-		w := trial.New(t, r, 5, wide.M.Len()+5+r.Intn(9))
-		f, g := w.Handle(a), w.Handle(b)
-		w.M.Collect()
+		w, tables, handles := trial.Tight(t, r, 5+r.Intn(9))
 		for _, call := range []func() api.Errno{
 			func() api.Errno { return reorder.To(w.M, r.Perm(5)) },
 			func() api.Errno { return reorder.Turn(w.M) },
 			func() api.Errno { return reorder.Move(w.M, r.Intn(5), r.Intn(5)) },
 			func() api.Errno {
 				level, wide := r.Intn(2), 2+r.Intn(3)
-				order, size := best(w.M.Order(), level, wide, spread(w, a), spread(w, b))
-				n, e := reorder.Window(w.M, level, wide, f, g)
+				order, size := best(w.M.Order(), level, wide, w.Spread(tables[:]...)...)
+				n, e := reorder.Window(w.M, level, wide, handles[:]...)
 				if e == api.OK && (n != size || !slices.Equal(w.M.Order(), order)) || e != api.OK && n != 0 {
 					t.Fatal(n, size, e)
 				}
@@ -267,8 +221,9 @@ func TestLittleRoom(t *testing.T) {
 			default:
 				t.Fatal(e)
 			}
-			if !perm.Right(w.M.Order()) || w.Table(f) != a || w.Table(g) != b || w.M.Handles() != 4 {
-				t.Fatal("the manager has changed")
+			w.Keeps(tables[:], handles[:])
+			if !perm.Right(w.M.Order()) {
+				t.Fatal(w.M.Order())
 			}
 		}
 	}

@@ -1,4 +1,4 @@
-// Package sample makes variables, terms and models for tests.
+// Package sample makes variables, terms, formulas and models for tests.
 package sample
 
 import (
@@ -135,4 +135,18 @@ func successor(r Random, v api.Var, known []api.Var) api.Term {
 		below, step = Term(r, known, nil, true, 2), same
 	}
 	return api.Term{Op: api.TIf, Kids: []api.Term{below, step, value}}
+}
+
+// Form returns a valid formula of at most that depth over the variables.
+func Form(r Random, vars []api.Var, depth int) api.Form {
+	op := api.FTerm + r.Intn(api.FAU-api.FTerm+1)
+	if depth <= 1 || op == api.FTerm {
+		return api.Form{Op: api.FTerm, E: Term(r, vars, nil, true, 3)}
+	}
+	f := api.Form{Op: op, Kids: []api.Form{Form(r, vars, depth-1)}}
+	switch op {
+	case api.FAnd, api.FOr, api.FImp, api.FEU, api.FAU:
+		f.Kids = append(f.Kids, Form(r, vars, depth-1))
+	}
+	return f
 }

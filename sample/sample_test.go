@@ -2,9 +2,11 @@ package sample_test
 
 import (
 	"math/rand"
+	"slices"
 	"testing"
 
 	"voussoir/api"
+	"voussoir/forms"
 	"voussoir/sample"
 	"voussoir/terms"
 	"voussoir/typing"
@@ -13,7 +15,7 @@ import (
 // What is made is valid, and nothing that is to occur is missing.
 func TestWhatIsMade(t *testing.T) {
 	r := rand.New(rand.NewSource(1))
-	ops, kinds := map[int]int{}, map[string]int{}
+	ops, kinds, path := map[int]int{}, map[string]int{}, map[int]int{}
 	for range 3000 {
 		m := sample.Module(r)
 		if p, e := typing.Check(m); e != api.OK {
@@ -34,6 +36,18 @@ func TestWhatIsMade(t *testing.T) {
 			t.Fatal(term, y, e)
 		}
 		count(term, ops)
+		f := sample.Form(r, m.Vars, 4)
+		if e := forms.Check(f); e != api.OK || forms.Deep(f) > 4 || !typed(m.Vars, f) {
+			t.Fatal(f, e)
+		}
+		for _, part := range forms.Parts(f) {
+			path[part.Op]++
+		}
+	}
+	for op := api.FTerm; op <= api.FAU; op++ {
+		if path[op] < 300 {
+			t.Errorf("operator %d occurs %d times in formulas", op, path[op])
+		}
 	}
 	for op := api.TNum; op <= api.TIf; op++ {
 		if ops[op] < 100 {
@@ -45,6 +59,15 @@ func TestWhatIsMade(t *testing.T) {
 			t.Errorf("there are %d of %s", n, kind)
 		}
 	}
+}
+
+// typed reports whether all terms of a formula are Boolean.
+func typed(vars []api.Var, f api.Form) bool {
+	if f.Op == api.FTerm {
+		y, e := terms.Type(vars, f.E, false)
+		return e == api.OK && y.Bool
+	}
+	return !slices.ContainsFunc(f.Kids, func(kid api.Form) bool { return !typed(vars, kid) })
 }
 
 // count counts the operators of t.

@@ -57,20 +57,27 @@ func (w *World) Same(about string, f, g int) {
 	}
 }
 
+// Keeps checks that there are no handles but those of the constants and these, and that they denote the functions with these tables.
+func (w *World) Keeps(tables []uint64, handles []int) {
+	w.T.Helper()
+	if w.M.Handles() != 2+len(handles) {
+		w.T.Fatalf("%d handles; want %d", w.M.Handles(), 2+len(handles))
+	}
+	for i, h := range handles {
+		if got := w.Table(h); got != tables[i] {
+			w.T.Fatalf("handle %d: %x; want %x", h, got, tables[i])
+		}
+	}
+}
+
 // LittleRoom calls operations on two functions of five variables that hardly find room. It checks that a call has failed for that, or has not failed, and has left everything else as it was; there must be enough of both.
 func LittleRoom(t Test, r Random, ops ...func(m *dd.Man, f, g int) (int, api.Errno)) {
 	t.Helper()
 	failed, done := 0, 0
 	for range 500 {
-		wide := New(t, r, 5, 5000)
-		a, b := wide.Some(), wide.Some()
-		wide.Handle(a)
-		wide.Handle(b)
-		wide.M.Collect()
-		w := New(t, r, 5, wide.M.Len()+5+r.Intn(4))
-		f, g := w.Handle(a), w.Handle(b)
+		w, tables, handles := Tight(t, r, 5+r.Intn(4))
 		for _, op := range ops {
-			switch h, e := op(w.M, f, g); {
+			switch h, e := op(w.M, handles[0], handles[1]); {
 			case e == api.OK:
 				done++
 				w.M.Drop(h)
@@ -79,9 +86,7 @@ func LittleRoom(t Test, r Random, ops ...func(m *dd.Man, f, g int) (int, api.Err
 			default:
 				failed++
 			}
-			if w.M.Handles() != 4 || w.Table(f) != a || w.Table(g) != b {
-				t.Fatal("the manager has changed")
-			}
+			w.Keeps(tables[:], handles[:])
 		}
 	}
 	if failed < 20 || done < 100 {

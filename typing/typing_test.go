@@ -7,19 +7,9 @@ import (
 	"testing"
 
 	"voussoir/api"
-	"voussoir/modtext"
+	"voussoir/sample"
 	"voussoir/typing"
 )
-
-// module returns the module for which s stands.
-func module(t *testing.T, s string) api.Module {
-	t.Helper()
-	m, at, e := modtext.Parse(s)
-	if e != api.OK {
-		t.Fatalf("%q: %d at %d", s, e, at)
-	}
-	return m
-}
 
 // checks checks what Check returns; a zero place and OK for a valid module.
 func checks(t *testing.T, about string, m api.Module, kind, i int, want api.Errno) {
@@ -38,13 +28,13 @@ var yes = api.Term{Op: api.TBool, N: 1}
 
 func TestTheExample(t *testing.T) {
 	text := "var n : 0..2; next n := if n < 2 then n + 1 else 0;"
-	m := module(t, text)
+	m := sample.Model(t, text)
 	checks(t, text, m, 0, 0, api.OK)
 	if k, ok := typing.States(m); typing.Bits(m) != 2 || k != 3 || !ok {
 		t.Error(typing.Bits(m), k, ok)
 	}
-	checks(t, "init n", module(t, text+"init n;"), api.InInit, 0, api.ErrType)
-	checks(t, "a cycle", module(t, text+"def a := b; def b := a;"), api.InDefs, 0, api.ErrCycle)
+	checks(t, "init n", sample.Model(t, text+"init n;"), api.InInit, 0, api.ErrType)
+	checks(t, "a cycle", sample.Model(t, text+"def a := b; def b := a;"), api.InDefs, 0, api.ErrCycle)
 }
 
 func TestValidModules(t *testing.T) {
@@ -59,7 +49,7 @@ func TestValidModules(t *testing.T) {
 		"def a := b & b; def b := true; init a -> a -> b;",
 		"var x : 0..5; def a := 3; init x mod a = 0;", // with its definition inlined the divisor is a number
 	} {
-		checks(t, s, module(t, s), 0, 0, api.OK)
+		checks(t, s, sample.Model(t, s), 0, 0, api.OK)
 	}
 }
 
@@ -117,7 +107,7 @@ func TestFirstError(t *testing.T) {
 		{"spec a : E[[true] U [1 + true]];", api.InSpecs, 0, api.ErrType},
 		{"spec a : E[[z] U [1 + true]];", api.InSpecs, 0, api.ErrName},
 	} {
-		checks(t, x.s, module(t, x.s), x.kind, x.i, x.e)
+		checks(t, x.s, sample.Model(t, x.s), x.kind, x.i, x.e)
 	}
 }
 
@@ -215,7 +205,7 @@ func TestNames(t *testing.T) {
 		checks(t, "spec "+bad, api.Module{Specs: []api.Spec{{Name: "a", F: form(yes)}, {Name: bad}}}, api.InSpecs, 1, api.ErrName)
 	}
 	// Specifications have names of their own.
-	checks(t, "a spec like a variable", module(t, "var a : bool; def b := a; spec a : [b]; spec b : [a];"), 0, 0, api.OK)
+	checks(t, "a spec like a variable", sample.Model(t, "var a : bool; def b := a; spec a : [b]; spec b : [a];"), 0, 0, api.OK)
 }
 
 func TestHowManyDeclarations(t *testing.T) {
