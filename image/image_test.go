@@ -8,198 +8,64 @@ import (
 	"testing"
 
 	"voussoir/api"
+	"voussoir/atlas"
 	"voussoir/dd"
-	"voussoir/edge"
-	"voussoir/graph"
 	"voussoir/image"
 	"voussoir/ops"
 	"voussoir/rel"
 	"voussoir/sample"
-	"voussoir/supp"
 	"voussoir/trial"
 	"voussoir/typing"
-	"voussoir/vset"
 )
 
-// world is a manager with the relation of a model that has at most six bits. A set is known by its table, too: bit i is the value where the bits of a state are those of i.
-type world struct {
-	*trial.World
-	r     *rel.Rel
-	g     graph.Graph
-	codes []int // the bits of each state of g
-	bits  int
-}
+// world is a world in which it can be told by enumeration what is wanted.
+type world struct{ atlas.World }
 
 // newWorld returns a world with room for so many nodes, where the relation finds room.
 func newWorld(t *testing.T, r *rand.Rand, mod api.Module, vars, room int) (w world, e api.Errno) {
 	t.Helper()
-	w.World = trial.New(t, r, vars, room)
-	w.bits = typing.Bits(mod)
-	if w.g, e = graph.Of(mod); e != api.OK {
-		t.Fatal(fmt.Sprint(mod), e)
-	}
-	for range 2 * vars {
-		w.M.Swap(r.Intn(vars))
-	}
-	if w.r, e = rel.New(w.M, mod); e != api.OK {
-		return w, e
-	}
-	for _, s := range w.g.States {
-		b, e := w.r.Layout().Code(s)
-		if e != api.OK {
-			t.Fatal(s, e)
-		}
-		code := 0
-		for i, yes := range b {
-			if yes {
-				code |= 1 << i
-			}
-		}
-		w.codes = append(w.codes, code)
-	}
-	return w, api.OK
+	w.World, e = atlas.New(t, r, mod, vars, room)
+	return w, e
 }
 
-// ofText returns the world of the model with that text, with ample room and one variable that no bit has.
+// ofText returns the world of the model with that text.
 func ofText(t *testing.T, s string) world {
 	t.Helper()
-	mod := sample.Model(t, s)
-	w, e := newWorld(t, rand.New(rand.NewSource(1)), mod, 2*typing.Bits(mod)+1, 20000)
-	if e != api.OK {
-		t.Fatal(s, e)
-	}
-	return w
+	return world{atlas.Of(t, rand.New(rand.NewSource(1)), s)}
 }
 
-func (w world) now() []int  { return w.r.Layout().AllNow() }
-func (w world) next() []int { return w.r.Layout().AllNext() }
-
-// full returns the table that is true for all bits.
-func (w world) full() uint64 {
-	return 1<<(1<<w.bits) - 1
-}
-
-// put returns the function whose value is that of the table at the bits that the variables have.
-func (w world) put(values uint64, vars []int) (h int, e api.Errno) {
-	return w.M.Do(func(x *dd.Ctx) edge.Edge {
-		var build func(b int, values uint64) edge.Edge
-		build = func(b int, values uint64) edge.Edge {
-			if b == len(vars) {
-				return edge.Zero.Flip(values&1 == 1)
-			}
-			lo, hi := build(b+1, trial.Cofactor(values, b, 0)), build(b+1, trial.Cofactor(values, b, 1))
-			return x.Ite(x.Mk(vars[b], edge.Zero, edge.One), hi, lo)
-		}
-		return build(0, values)
-	})
-}
-
-// set returns a new handle of a function of the current bits.
-func (w world) set(values uint64) int {
-	w.T.Helper()
-	return w.Right(w.put(values, w.now()))
-}
-
-// table returns the table of a function of these variables.
-func (w world) table(h int, vars []int) (values uint64) {
-	w.T.Helper()
-	if used, e := supp.Support(w.M, h); !vset.Within(used, vars) || e != api.OK {
-		w.T.Fatalf("a function of %v, %d; want one of %v", used, e, vars)
-	}
-	for code := range 1 << len(vars) {
-		l := make([]bool, w.M.Vars())
-		for b, v := range vars {
-			l[v] = code>>b&1 == 1
-		}
-		if yes, e := w.M.Eval(h, l); yes && e == api.OK {
-			values |= 1 << code
-		}
-	}
-	return values
-}
-
-// is returns a check that a call has answered a new handle of the function of these variables with that table, which is dropped.
-func (w world) is(about string, want uint64, vars []int) func(h int, e api.Errno) {
-	many := w.M.Handles()
-	return func(h int, e api.Errno) {
-		w.T.Helper()
-		w.Right(h, e)
-		if got := w.table(h, vars); got != want || w.M.Handles() != many+1 {
-			w.T.Fatalf("%s: %x, and %d handles; want %x, and %d handles; %s", about, got, w.M.Handles(), want, many+1, fmt.Sprint(w.r.Module()))
-		}
-		w.M.Drop(h)
-	}
-}
-
-// isSet is is for sets.
-func (w world) isSet(about string, want uint64) func(h int, e api.Errno) {
-	return w.is(about, want, w.now())
-}
-
-// where returns the table of the states for which a condition on their index holds.
-func (w world) where(holds func(i int) bool) (values uint64) {
-	for i, code := range w.codes {
-		if holds(i) {
-			values |= 1 << code
-		}
-	}
-	return values
-}
-
-// has reports whether a set contains the state with that index.
-func (w world) has(values uint64, i int) bool {
-	return values>>w.codes[i]&1 == 1
-}
-
-// post, pre, forced and dead say what is wanted, by enumeration.
-func (w world) post(values uint64) uint64 {
-	return w.where(func(i int) bool {
-		for k, next := range w.g.Next {
-			if w.has(values, k) && slices.Contains(next, i) {
-				return true
-			}
-		}
-		return false
-	})
-}
-
-func (w world) pre(values uint64) uint64 {
-	return w.where(func(i int) bool {
-		return slices.ContainsFunc(w.g.Next[i], func(k int) bool { return w.has(values, k) })
-	})
-}
-
+// forced and dead say what is wanted, as Post and Pre do.
 func (w world) forced(values uint64) uint64 {
-	return w.where(func(i int) bool {
-		return !slices.ContainsFunc(w.g.Next[i], func(k int) bool { return !w.has(values, k) })
+	return w.Where(func(i int) bool {
+		return !slices.ContainsFunc(w.Graph.Next[i], func(k int) bool { return !w.In(values, k) })
 	})
 }
 
 func (w world) dead() uint64 {
-	return w.where(func(i int) bool { return len(w.g.Next[i]) == 0 })
+	return w.Where(func(i int) bool { return len(w.Graph.Next[i]) == 0 })
 }
 
 // answers checks what all functions answer for a set.
 func (w world) answers(values uint64) {
 	w.T.Helper()
-	h, later := w.set(values), w.Right(w.put(values, w.next()))
+	h, later := w.Set(values), w.Right(w.Put(values, w.Next()))
 	shake := func() {
 		w.Disturb()
 		w.Disturb()
 	}
 	shake()
-	w.isSet("Post", w.post(values))(image.Post(w.r, h))
+	w.GivesSet("Post", w.Post(values))(image.Post(w.Rel, h))
 	shake()
-	w.isSet("Pre", w.pre(values))(image.Pre(w.r, h))
+	w.GivesSet("Pre", w.Pre(values))(image.Pre(w.Rel, h))
 	shake()
-	w.isSet("Forced", w.forced(values))(image.Forced(w.r, h))
+	w.GivesSet("Forced", w.forced(values))(image.Forced(w.Rel, h))
 	shake()
-	w.isSet("Dead", w.dead())(image.Dead(w.r))
+	w.GivesSet("Dead", w.dead())(image.Dead(w.Rel))
 	shake()
-	w.is("Shift to next", values, w.next())(image.Shift(w.r, h, true))
+	w.Gives("Shift to next", values, w.Next())(image.Shift(w.Rel, h, true))
 	shake()
-	w.is("Shift back", values, w.now())(image.Shift(w.r, later, false))
-	if w.table(h, w.now()) != values || w.table(later, w.next()) != values {
+	w.Gives("Shift back", values, w.Now())(image.Shift(w.Rel, later, false))
+	if w.Read(h, w.Now()) != values || w.Read(later, w.Next()) != values {
 		w.T.Fatal("a set has changed")
 	}
 	w.M.Drop(h, later)
@@ -207,42 +73,42 @@ func (w world) answers(values uint64) {
 
 func TestTheExample(t *testing.T) {
 	w := ofText(t, "var n : 0 .. 2; next n := if n < 2 then n + 1 else 2;")
-	low, high := w.set(0b011), w.set(0b100)
-	w.isSet("Post", 0b110)(image.Post(w.r, low))
-	w.isSet("Pre", 0b110)(image.Pre(w.r, high))
-	w.isSet("Forced", 0b110)(image.Forced(w.r, high))
-	w.isSet("Dead", 0)(image.Dead(w.r))
+	low, high := w.Set(0b011), w.Set(0b100)
+	w.GivesSet("Post", 0b110)(image.Post(w.Rel, low))
+	w.GivesSet("Pre", 0b110)(image.Pre(w.Rel, high))
+	w.GivesSet("Forced", 0b110)(image.Forced(w.Rel, high))
+	w.GivesSet("Dead", 0)(image.Dead(w.Rel))
 }
 
 // Some states have no transitions: they are forced to go anywhere.
 func TestStatesWithoutTransitions(t *testing.T) {
 	w := ofText(t, "var x : 0 .. 2; next x := x + 1;")
-	last := w.set(0b100)
-	w.isSet("Dead", 0b100)(image.Dead(w.r))
-	w.isSet("Forced", 0b100)(image.Forced(w.r, 0))
-	w.isSet("Forced", 0b110)(image.Forced(w.r, last))
-	w.isSet("Forced", 0b111)(image.Forced(w.r, 1))
-	w.isSet("Pre", 0b011)(image.Pre(w.r, 1))
-	w.isSet("Post", 0b110)(image.Post(w.r, 1))
-	w.isSet("Post", 0)(image.Post(w.r, last))
-	w.isSet("Post", 0)(image.Post(w.r, 0))
-	w.isSet("Pre", 0)(image.Pre(w.r, 0))
+	last := w.Set(0b100)
+	w.GivesSet("Dead", 0b100)(image.Dead(w.Rel))
+	w.GivesSet("Forced", 0b100)(image.Forced(w.Rel, 0))
+	w.GivesSet("Forced", 0b110)(image.Forced(w.Rel, last))
+	w.GivesSet("Forced", 0b111)(image.Forced(w.Rel, 1))
+	w.GivesSet("Pre", 0b011)(image.Pre(w.Rel, 1))
+	w.GivesSet("Post", 0b110)(image.Post(w.Rel, 1))
+	w.GivesSet("Post", 0)(image.Post(w.Rel, last))
+	w.GivesSet("Post", 0)(image.Post(w.Rel, 0))
+	w.GivesSet("Pre", 0)(image.Pre(w.Rel, 0))
 }
 
 // Bits that encode no state count for Shift only.
 func TestBitsOfNoState(t *testing.T) {
 	w := ofText(t, "var x : 0 .. 2; var b : bool; invar x = 2 -> b; next b := !b; trans next(x) != x;")
 	const states = 0b01110011
-	if got := w.table(w.r.Valid(), w.now()); got != states {
+	if got := w.Read(w.Rel.Valid(), w.Now()); got != states {
 		t.Fatal(got)
 	}
 	for values := range uint64(256) {
 		w.answers(values)
 	}
-	others := w.set(0xff &^ states)
-	w.isSet("Pre", 0)(image.Pre(w.r, others))
-	w.isSet("Post", 0)(image.Post(w.r, others))
-	w.isSet("Forced", w.dead())(image.Forced(w.r, others))
+	others := w.Set(0xff &^ states)
+	w.GivesSet("Pre", 0)(image.Pre(w.Rel, others))
+	w.GivesSet("Post", 0)(image.Post(w.Rel, others))
+	w.GivesSet("Forced", w.dead())(image.Forced(w.Rel, others))
 }
 
 func TestRandomModels(t *testing.T) {
@@ -260,24 +126,24 @@ func TestRandomModels(t *testing.T) {
 		if e != api.OK {
 			t.Fatal(e)
 		}
-		if w.table(w.r.Valid(), w.now()) != w.where(func(int) bool { return true }) {
+		if w.Read(w.Rel.Valid(), w.Now()) != w.States() {
 			t.Fatal("states")
 		}
 		owned := w.M.Handles()
 		for range 4 {
-			w.answers(r.Uint64() & w.full())
-			w.answers(r.Uint64() & r.Uint64() & r.Uint64() & w.full())
+			w.answers(r.Uint64() & w.Full())
+			w.answers(r.Uint64() & r.Uint64() & r.Uint64() & w.Full())
 		}
 		w.answers(0)
-		w.answers(w.full())
+		w.answers(w.Full())
 		if w.M.Handles() != owned {
 			t.Fatal(owned, w.M.Handles())
 		}
-		w.r.Close()
+		w.Rel.Close()
 		if w.M.Handles() != 2 {
 			t.Fatal(w.M.Handles())
 		}
-		for _, next := range w.g.Next {
+		for _, next := range w.Graph.Next {
 			steps += len(next)
 			if len(next) == 0 {
 				dead++
@@ -296,14 +162,14 @@ func TestRandomModels(t *testing.T) {
 func TestEvents(t *testing.T) {
 	const values = 0b01100101
 	w := ofText(t, "var x : 0 .. 2; var b : bool; invar x = 2 -> b; next b := !b; trans next(x) != x;")
-	set, later := w.set(values), w.Right(w.put(values, w.next()))
+	set, later := w.Set(values), w.Right(w.Put(values, w.Next()))
 	for about, check := range map[string]func(){
-		"Post":          func() { w.isSet("Post", w.post(values))(image.Post(w.r, set)) },
-		"Pre":           func() { w.isSet("Pre", w.pre(values))(image.Pre(w.r, set)) },
-		"Forced":        func() { w.isSet("Forced", w.forced(values))(image.Forced(w.r, set)) },
-		"Dead":          func() { w.isSet("Dead", w.dead())(image.Dead(w.r)) },
-		"Shift to next": func() { w.is("Shift", values, w.next())(image.Shift(w.r, set, true)) },
-		"Shift back":    func() { w.is("Shift", values, w.now())(image.Shift(w.r, later, false)) },
+		"Post":          func() { w.GivesSet("Post", w.Post(values))(image.Post(w.Rel, set)) },
+		"Pre":           func() { w.GivesSet("Pre", w.Pre(values))(image.Pre(w.Rel, set)) },
+		"Forced":        func() { w.GivesSet("Forced", w.forced(values))(image.Forced(w.Rel, set)) },
+		"Dead":          func() { w.GivesSet("Dead", w.dead())(image.Dead(w.Rel)) },
+		"Shift to next": func() { w.Gives("Shift", values, w.Next())(image.Shift(w.Rel, set, true)) },
+		"Shift back":    func() { w.Gives("Shift", values, w.Now())(image.Shift(w.Rel, later, false)) },
 	} {
 		for kind := api.EvCollect; kind <= api.EvTurn; kind++ {
 			for _, level := range []int{0, 2, 5} {
@@ -317,7 +183,7 @@ func TestEvents(t *testing.T) {
 					t.Error(about, after)
 				}
 				for w.M.Waits() > 0 {
-					w.set(0b1)
+					w.Set(0b1)
 				}
 			}
 		}
@@ -348,10 +214,10 @@ func TestModels(t *testing.T) {
 	} {
 		w := ofText(t, s)
 		for range 8 {
-			w.answers(w.R.Uint64() & w.full())
+			w.answers(w.R.Uint64() & w.Full())
 		}
 		w.answers(0)
-		w.answers(w.full())
+		w.answers(w.Full())
 	}
 }
 
@@ -366,10 +232,10 @@ func TestDerivedProperties(t *testing.T) {
 			t.Fatal(e)
 		}
 		h := w.Right
-		some := func() int { return h(ops.And(w.M, w.set(r.Uint64()&w.full()), w.r.Valid())) }
+		some := func() int { return h(ops.And(w.M, w.Set(r.Uint64()&w.Full()), w.Rel.Valid())) }
 		a, b := some(), some()
 		w.Disturb()
-		post, pre := h(image.Post(w.r, a)), h(image.Pre(w.r, b))
+		post, pre := h(image.Post(w.Rel, a)), h(image.Pre(w.Rel, b))
 		forward, _ := ops.Meets(w.M, post, b)
 		back, _ := ops.Meets(w.M, pre, a)
 		if forward != back {
@@ -378,18 +244,18 @@ func TestDerivedProperties(t *testing.T) {
 		if forward {
 			meeting++
 		}
-		complement := h(ops.And(w.M, h(w.M.Not(b)), w.r.Valid()))
+		complement := h(ops.And(w.M, h(w.M.Not(b)), w.Rel.Valid()))
 		w.Disturb()
-		escaping := h(image.Pre(w.r, complement))
-		w.Same("Forced", h(image.Forced(w.r, b)), h(ops.And(w.M, h(w.M.Not(escaping)), w.r.Valid())))
-		w.Same("Dead", h(image.Dead(w.r)), h(image.Forced(w.r, 0)))
+		escaping := h(image.Pre(w.Rel, complement))
+		w.Same("Forced", h(image.Forced(w.Rel, b)), h(ops.And(w.M, h(w.M.Not(escaping)), w.Rel.Valid())))
+		w.Same("Dead", h(image.Dead(w.Rel)), h(image.Forced(w.Rel, 0)))
 		either := h(ops.Or(w.M, a, b))
 		w.Disturb()
-		w.Same("Post of a union", h(image.Post(w.r, either)), h(ops.Or(w.M, post, h(image.Post(w.r, b)))))
-		w.Same("Pre of a union", h(image.Pre(w.r, either)), h(ops.Or(w.M, pre, h(image.Pre(w.r, a)))))
-		f := w.set(r.Uint64() & w.full())
+		w.Same("Post of a union", h(image.Post(w.Rel, either)), h(ops.Or(w.M, post, h(image.Post(w.Rel, b)))))
+		w.Same("Pre of a union", h(image.Pre(w.Rel, either)), h(ops.Or(w.M, pre, h(image.Pre(w.Rel, a)))))
+		f := w.Set(r.Uint64() & w.Full())
 		w.Disturb()
-		w.Same("there and back", f, h(image.Shift(w.r, h(image.Shift(w.r, f, true)), false)))
+		w.Same("there and back", f, h(image.Shift(w.Rel, h(image.Shift(w.Rel, f, true)), false)))
 	}
 	if meeting < 50 || meeting > 200 {
 		t.Error(meeting)
@@ -414,30 +280,30 @@ func TestWrongArguments(t *testing.T) {
 	}
 	all := unary()
 	all["Shift to next"], all["Shift back"] = shift(true), shift(false)
-	now, next := w.set(0b0110), w.Right(w.put(0b0110, w.next()))
+	now, next := w.Set(0b0110), w.Right(w.Put(0b0110, w.Next()))
 	for about, call := range all {
 		for _, bad := range []int{gone, -1, 40, math.MinInt, math.MaxInt} {
-			w.Fails(about, api.ErrHandle)(call(w.r, bad))
+			w.Fails(about, api.ErrHandle)(call(w.Rel, bad))
 			w.Fails(about, api.ErrNone)(call(nil, bad))
 		}
 		w.Fails(about, api.ErrNone)(call(nil, 0))
 		w.Fails(about, api.ErrNone)(call(nil, now))
 		for _, vars := range [][]int{{4}, {0, 1}, {2, 3}, {0, 4}, {3, 4}, {0, 1, 2, 3, 4}} {
-			h := w.Right(w.put(0b1, vars))
-			w.Fails(about, api.ErrArg)(call(w.r, h))
+			h := w.Right(w.Put(0b1, vars))
+			w.Fails(about, api.ErrArg)(call(w.Rel, h))
 			w.M.Drop(h)
 		}
 		fit, unfit := now, next
 		if about == "Shift back" {
 			fit, unfit = next, now
 		}
-		w.Fails(about, api.ErrArg)(call(w.r, unfit))
+		w.Fails(about, api.ErrArg)(call(w.Rel, unfit))
 		for _, set := range []int{0, 1, fit} {
-			w.M.Drop(w.Right(call(w.r, set)))
+			w.M.Drop(w.Right(call(w.Rel, set)))
 		}
 		// It depends on another variable only where the bits are not those of a state.
-		h := w.Right(w.put(1<<7, []int{0, 2, 4}))
-		w.Fails(about, api.ErrArg)(call(w.r, h))
+		h := w.Right(w.Put(1<<7, []int{0, 2, 4}))
+		w.Fails(about, api.ErrArg)(call(w.Rel, h))
 		w.M.Drop(h)
 	}
 	w.Fails("Dead", api.ErrNone)(image.Dead(nil))
@@ -454,8 +320,8 @@ func TestLittleRoom(t *testing.T) {
 		if e != api.OK {
 			continue
 		}
-		values := r.Uint64() & w.full()
-		set, e := w.put(values, w.now())
+		values := r.Uint64() & w.Full()
+		set, e := w.Put(values, w.Now())
 		if e != api.OK {
 			continue
 		}
@@ -463,7 +329,7 @@ func TestLittleRoom(t *testing.T) {
 		owned := w.M.Handles()
 		check := func(about string, want uint64, vars []int, h int, e api.Errno) {
 			switch {
-			case e == api.OK && w.table(h, vars) == want && w.M.Handles() == owned+1:
+			case e == api.OK && w.Read(h, vars) == want && w.M.Handles() == owned+1:
 				done[about]++
 				w.M.Drop(h)
 			case e == api.ErrRoom && h == 0 && w.M.Handles() == owned:
@@ -471,18 +337,18 @@ func TestLittleRoom(t *testing.T) {
 			default:
 				t.Fatal(about, h, e, w.M.Handles(), owned)
 			}
-			if w.table(set, w.now()) != values {
+			if w.Read(set, w.Now()) != values {
 				t.Fatal(about, "a set has changed")
 			}
 		}
-		for about, want := range map[string]uint64{"Post": w.post(values), "Pre": w.pre(values), "Forced": w.forced(values)} {
-			h, e := unary()[about](w.r, set)
-			check(about, want, w.now(), h, e)
+		for about, want := range map[string]uint64{"Post": w.Post(values), "Pre": w.Pre(values), "Forced": w.forced(values)} {
+			h, e := unary()[about](w.Rel, set)
+			check(about, want, w.Now(), h, e)
 		}
-		h, e := image.Dead(w.r)
-		check("Dead", w.dead(), w.now(), h, e)
-		h, e = image.Shift(w.r, set, true)
-		check("Shift", values, w.next(), h, e)
+		h, e := image.Dead(w.Rel)
+		check("Dead", w.dead(), w.Now(), h, e)
+		h, e = image.Shift(w.Rel, set, true)
+		check("Shift", values, w.Next(), h, e)
 	}
 	for _, about := range []string{"Post", "Pre", "Forced", "Dead", "Shift"} {
 		if failed[about] < 8 || done[about] < 200 {
@@ -507,7 +373,7 @@ func TestEnoughRoom(t *testing.T) {
 			t.Fatal(e)
 		}
 		for range 5 {
-			w.answers(r.Uint64() & w.full())
+			w.answers(r.Uint64() & w.Full())
 		}
 	}
 }

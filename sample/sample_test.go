@@ -93,3 +93,14 @@ func TestVars(t *testing.T) {
 		}
 	}
 }
+
+// The chain is a valid model. Its states are too many to be enumerated; the tests that use it come along all of them.
+func TestChain(t *testing.T) {
+	m := sample.Model(t, sample.Chain)
+	if p, e := typing.Check(m); e != api.OK {
+		t.Fatal(p, e)
+	}
+	if n, ok := typing.States(m); n != 2*64*64 || !ok {
+		t.Error(n, ok)
+	}
+}
