@@ -13,8 +13,24 @@ import (
 	"voussoir/sets"
 )
 
+// Way leads from a set to a new handle of the states that are one transition away.
+type Way = func(r *rel.Rel, set int) (h int, e api.Errno)
+
 // step makes a new handle of the states that are next to those of a set.
 type step = func(set int) (h int, e api.Errno)
+
+// Among returns a step that leads on a way to the states of p only.
+func Among(r *rel.Rel, p int, on Way) func(set int) (h int, e api.Errno) {
+	m := r.Man()
+	return func(set int) (int, api.Errno) {
+		all, e := on(r, set)
+		if e != api.OK {
+			return 0, e
+		}
+		defer m.Drop(all)
+		return ops.And(m, all, p)
+	}
+}
 
 // Search is a breadth-first search. It owns its handles.
 type Search struct {
@@ -63,6 +79,17 @@ func (s *Search) Last() int {
 // Met returns a new handle of all frontiers so far together.
 func (s *Search) Met() (h int, e api.Errno) {
 	return s.m.Copy(s.met)
+}
+
+// All goes on until there is nothing more, closes the search, and returns a new handle of all frontiers together.
+func (s *Search) All() (h int, e api.Errno) {
+	defer s.Close()
+	for more := true; more; {
+		if more, e = s.Next(); e != api.OK {
+			return 0, e
+		}
+	}
+	return s.Met()
 }
 
 // Keep puts the last frontier among those that Take hands out.

@@ -9,6 +9,7 @@ import (
 	"voussoir/atlas"
 	"voussoir/frontier"
 	"voussoir/image"
+	"voussoir/rel"
 )
 
 // loop is a model with the transitions 0 to 1, 1 to 2, 2 to 4, 4 to 0, and 3 to 4. Three of the eight lists of its bits are those of no state.
@@ -56,6 +57,43 @@ func TestSearch(t *testing.T) {
 	s.Keep()
 	s.Close()
 	if w.M.Handles() != owned+2 || w.M.Drop(l...) != api.OK {
+		t.Error(w.M.Handles(), owned)
+	}
+}
+
+func TestAmong(t *testing.T) {
+	w, _ := world(t, loop)
+	p := w.Set(0b11110)
+	for _, x := range []struct{ set, post, pre uint64 }{
+		{0, 0, 0},
+		{0b10001, 0b00010, 0b11100},
+		{0b01001, 0b10010, 0b10000},
+		{0b10100010, 0b00100, 0},
+	} {
+		set := w.Set(x.set)
+		w.GivesSet("Post", x.post)(frontier.Among(w.Rel, p, image.Post)(set))
+		w.GivesSet("Pre", x.pre)(frontier.Among(w.Rel, p, image.Pre)(set))
+		w.Fails("a way", api.ErrKind)(frontier.Among(w.Rel, p, func(*rel.Rel, int) (int, api.Errno) { return 0, api.ErrKind })(set))
+	}
+	w.Fails("a set", api.ErrHandle)(frontier.Among(w.Rel, -1, image.Post)(p))
+}
+
+func TestAll(t *testing.T) {
+	w, post := world(t, loop)
+	from, some := w.Set(0b10100010), w.Set(0b00111)
+	owned := w.M.Handles()
+	w.GivesSet("All", 0b10111)(frontier.New(w.Rel, from, post).All())
+	w.GivesSet("All", 0b00110)(frontier.New(w.Rel, from, frontier.Among(w.Rel, some, image.Post)).All())
+	w.GivesSet("All", 0)(frontier.New(w.Rel, 0, post).All())
+	steps := 0
+	failing := func(set int) (int, api.Errno) {
+		if steps++; steps > 2 {
+			return 0, api.ErrKind
+		}
+		return post(set)
+	}
+	w.Fails("All", api.ErrKind)(frontier.New(w.Rel, from, failing).All())
+	if w.M.Handles() != owned {
 		t.Error(w.M.Handles(), owned)
 	}
 }
