@@ -4,6 +4,7 @@ import (
 	"voussoir/api"
 	"voussoir/cubes"
 	"voussoir/dd"
+	"voussoir/endless"
 	"voussoir/frontier"
 	"voussoir/image"
 	"voussoir/ops"
@@ -75,7 +76,7 @@ func (s *sorting) split(set, some, component int) api.Errno {
 
 // gather adds a component to the core if it is fair.
 func (s *sorting) gather(component int) (fair bool, e api.Errno) {
-	cycles, e := fairly(s.r, component, image.Pre) // all of it, or nothing
+	cycles, e := endless.Fair(s.r, component, image.Pre) // all of it, or nothing
 	if e != api.OK {
 		return false, e
 	}
@@ -102,12 +103,12 @@ func (s *sorting) part(set, other int, fair bool) api.Errno {
 
 // between returns a new handle of the states of a set that lie on a path within the set from one fair cycle to another, or on a fair cycle.
 func between(r *rel.Rel, set int) (h int, e api.Errno) {
-	leading, e := fairly(r, set, image.Pre)
+	leading, e := endless.Fair(r, set, image.Pre)
 	if e != api.OK {
 		return 0, e
 	}
 	defer r.Man().Drop(leading)
-	return fairly(r, leading, image.Post)
+	return endless.Fair(r, leading, image.Post)
 }
 
 // single returns a new handle of one of the states of a set.

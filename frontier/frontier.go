@@ -129,6 +129,52 @@ func (s *Search) Close() {
 	s.m.Drop(s.last, s.met)
 }
 
+// Path returns the least of the shortest sequences of states of p that begin in from, end in to, and go on by transitions.
+func Path(r *rel.Rel, from, to, p int) (l [][]int, e api.Errno) {
+	m := r.Man()
+	goal, e := ops.And(m, to, p)
+	if e != api.OK {
+		return nil, e
+	}
+	defer m.Drop(goal)
+	rings, e := toward(r, from, New(r, goal, Among(r, p, image.Pre)))
+	if e != api.OK {
+		return nil, e
+	}
+	defer m.Drop(rings...)
+	last := len(rings) - 1
+	start, e := sets.Least(r, from, rings[last])
+	if e != api.OK {
+		return nil, e
+	}
+	return Down(r, rings, last, start)
+}
+
+// toward closes a search and returns new handles of its frontiers up to the first one that contains a state of from.
+func toward(r *rel.Rel, from int, s *Search) (l []int, e api.Errno) {
+	defer s.Close()
+back:
+	for {
+		more, e := s.Next()
+		switch {
+		case e != api.OK:
+			return nil, e
+		case !more:
+			return nil, api.ErrPath
+		}
+		if e := s.Keep(); e != api.OK {
+			return nil, e
+		}
+		switch met, e := ops.Meets(r.Man(), from, s.Last()); {
+		case e != api.OK:
+			return nil, e
+		case met:
+			break back
+		}
+	}
+	return s.Take(), api.OK
+}
+
 // Down returns a path from s, a state of the frontier l[n], down to l[0], on which each state is the least successor of the one before that is in the next lower frontier.
 func Down(r *rel.Rel, l []int, n int, s []int) (path [][]int, e api.Errno) {
 	path = [][]int{slices.Clone(s)}

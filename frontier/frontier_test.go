@@ -151,6 +151,47 @@ func TestAStepThatFails(t *testing.T) {
 	}
 }
 
+func TestPath(t *testing.T) {
+	w, _ := world(t, "var x : 0 .. 5; trans next(x) = x + 1 | next(x) = x + 2 | next(x) = x - 3;")
+	const some = 0b01110111 // but not 3
+	p := w.Set(some)
+	for _, x := range []struct {
+		from, to uint64
+		want     []int // within all states
+		among    []int // within p
+	}{
+		{0b000100, 0b000100, []int{2}, []int{2}},
+		{0b110110, 0b101100, []int{2}, []int{2}},
+		{0b000001, 0b110000, []int{0, 2, 4}, []int{0, 2, 4}},
+		{0b000001, 0b100000, []int{0, 1, 3, 5}, []int{0, 2, 4, 5}},
+		{0b000010, 0b001000, []int{1, 3}, nil},
+		{0b001000, 0b000001, []int{3, 0}, nil},
+		{0b001010, 0b000001, []int{3, 0}, nil},
+		{0b001010, 0b010000, []int{3, 4}, []int{1, 2, 4}},
+		{0b100000, 0b010010, []int{5, 2, 4}, []int{5, 2, 4}},
+		{0b11000001, 0b10000100, []int{0, 2}, []int{0, 2}},
+		{0, 0b111111, nil, nil},
+		{0b111111, 0b11000000, nil, nil},
+	} {
+		from, e := w.Put(x.from, w.Now())
+		if e != api.OK {
+			t.Fatal(e)
+		}
+		to := w.Set(x.to)
+		owned := w.M.Handles()
+		for p, want := range map[int][]int{1: x.want, p: x.among} {
+			fault := api.OK
+			if want == nil {
+				fault = api.ErrPath
+			}
+			path, e := frontier.Path(w.Rel, from, to, p)
+			if !slices.Equal(slices.Concat(path...), want) || len(path) != len(want) || e != fault || w.M.Handles() != owned {
+				t.Errorf("%b, %b: %v, %d; want %v", x.from, x.to, path, e, want)
+			}
+		}
+	}
+}
+
 func TestDown(t *testing.T) {
 	w, _ := world(t, "var x : 0 .. 5; trans next(x) = x + 1 | next(x) = x + 2 | next(x) = x - 3;")
 	for _, x := range []struct {
